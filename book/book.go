@@ -1,7 +1,10 @@
 // Package book knows the catalogues: goods whose numbers change from one book to the next, sizes that fit traced feet, and prices that are held until a day.
 package book
 
-import "wishbook/api"
+import (
+	"wishbook/api"
+	"wishbook/spans"
+)
 
 // Check checks a rack.
 func Check(r api.BookRack) api.Errno {
@@ -16,7 +19,7 @@ func Means(r api.BookRack, days api.Span, number int) ([]api.BookMeant, api.Errn
 	if e := Check(r); e != api.OK {
 		return nil, e
 	}
-	if !spanWithin(ofDays, days) || !within(ofNumbers, number) {
+	if !spans.IsWithin(limits[ofDays], days) || !spans.Has(limits[ofNumbers], number) {
 		return nil, api.ErrBookAsk
 	}
 	return rack{r}.means(days, number), api.OK
@@ -28,7 +31,7 @@ func Number(r api.BookRack, issue, number, other int) (int, api.Errno) {
 		return 0, e
 	}
 	here := rack{r}
-	if !here.hasIssue(issue) || !here.hasIssue(other) || !within(ofNumbers, number) {
+	if !here.hasIssue(issue) || !here.hasIssue(other) || !spans.Has(limits[ofNumbers], number) {
 		return 0, api.ErrBookAsk
 	}
 	good, ok := here.goods()[place{issue, number}]
@@ -47,7 +50,7 @@ func Twins(r api.BookRack, day int) ([]int, api.Errno) {
 	if e := Check(r); e != api.OK {
 		return nil, e
 	}
-	if !within(ofDays, day) {
+	if !spans.Has(limits[ofDays], day) {
 		return nil, api.ErrBookAsk
 	}
 	return rack{r}.twins(day), api.OK
@@ -59,10 +62,10 @@ func Price(r api.BookRack, day int, item api.BookItem) (int, api.Errno) {
 		return 0, e
 	}
 	here := rack{r}
-	if !within(ofDays, day) || !here.isItem(item) {
+	if !spans.Has(limits[ofDays], day) || !here.isItem(item) {
 		return 0, api.ErrBookAsk
 	}
-	price, ok := priceOn(here.offers(oneDay(day), item), day)
+	price, ok := priceOn(here.offers(spans.One(day), item), day)
 	if !ok {
 		return 0, api.ErrNone
 	}
@@ -75,7 +78,7 @@ func Prices(r api.BookRack, days api.Span, item api.BookItem) ([]int, api.Errno)
 		return nil, e
 	}
 	here := rack{r}
-	if !spanWithin(ofDays, days) || !here.isItem(item) {
+	if !spans.IsWithin(limits[ofDays], days) || !here.isItem(item) {
 		return nil, api.ErrBookAsk
 	}
 	return here.prices(days, item), api.OK
@@ -103,10 +106,10 @@ func Sum(r api.BookRack, day int, lines []api.BookLine) (int, api.Errno) {
 		return 0, e
 	}
 	here := rack{r}
-	if !within(ofDays, day) || !areLines(lines, here.isItem) {
+	if !spans.Has(limits[ofDays], day) || !areLines(lines, here.isItem) {
 		return 0, api.ErrBookAsk
 	}
-	sum, ok := sumOn(here.quotes(oneDay(day), lines), day)
+	sum, ok := sumOn(here.quotes(spans.One(day), lines), day)
 	if !ok {
 		return 0, api.ErrNone
 	}
@@ -119,7 +122,7 @@ func Cheapest(r api.BookRack, days api.Span, lines []api.BookLine) (day, sum int
 		return 0, 0, e
 	}
 	here := rack{r}
-	if !spanWithin(ofDays, days) || !areLines(lines, here.isItem) {
+	if !spans.IsWithin(limits[ofDays], days) || !areLines(lines, here.isItem) {
 		return 0, 0, api.ErrBookAsk
 	}
 	day, sum, ok := here.cheapest(days, lines)
@@ -131,12 +134,12 @@ func Cheapest(r api.BookRack, days api.Span, lines []api.BookLine) (day, sum int
 
 // Fits returns all sizes that can fit a foot.
 func Fits(r api.BookRack, issue, number int, foot api.Span) ([]int, api.Errno) {
-	return look(rack{r}, issue, number, search{foot, meet})
+	return look(rack{r}, issue, number, search{foot, spans.Meet})
 }
 
 // Sure returns the size that surely fits a foot.
 func Sure(r api.BookRack, issue, number int, foot api.Span) (int, api.Errno) {
-	sizes, e := look(rack{r}, issue, number, search{foot, covers})
+	sizes, e := look(rack{r}, issue, number, search{foot, spans.Covers})
 	if e != api.OK {
 		return 0, e
 	}

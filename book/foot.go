@@ -1,6 +1,9 @@
 package book
 
-import "wishbook/api"
+import (
+	"wishbook/api"
+	"wishbook/spans"
+)
 
 // search is a traced foot, and which sizes are looked for: those that can fit, or those that surely do.
 type search struct {
@@ -23,7 +26,7 @@ func look(r rack, issue, number int, s search) ([]int, api.Errno) {
 	if !r.isValid() {
 		return nil, api.ErrBook
 	}
-	if !r.hasIssue(issue) || !within(ofNumbers, number) || !spanWithin(ofFeet, s.foot) {
+	if !r.hasIssue(issue) || !spans.Has(limits[ofNumbers], number) || !spans.IsWithin(limits[ofFeet], s.foot) {
 		return nil, api.ErrBookAsk
 	}
 	e, ok := catalogue{r.Issues[issue]}.entryOfNumber(number)

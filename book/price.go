@@ -1,10 +1,10 @@
 package book
 
 import (
-	"cmp"
 	"slices"
 
 	"wishbook/api"
+	"wishbook/spans"
 )
 
 // offer is a book that has an item, and its price there.
@@ -37,13 +37,13 @@ books:
 func priceOn(offers []offer, day int) (int, bool) {
 	price, ok := 0, false
 	for _, o := range offers {
-		if !o.holdsPrices(oneDay(day)) {
+		if !o.holdsPrices(spans.One(day)) {
 			continue
 		}
 		if !ok {
 			price, ok = o.price, true
 		}
-		price = least(price, o.price)
+		price = spans.Least(price, o.price)
 	}
 	return price, ok
 }
@@ -51,7 +51,7 @@ func priceOn(offers []offer, day int) (int, bool) {
 func (r rack) prices(days api.Span, item api.BookItem) []int {
 	offers := r.offers(days, item)
 	var list []int
-	for i := range days.High - days.Low + 1 {
+	for i := range spans.Count(days) {
 		price, ok := priceOn(offers, days.Low+i)
 		if ok && !slices.Contains(list, price) {
 			list = append(list, price)
@@ -101,20 +101,11 @@ func sumOn(quotes []quote, day int) (int, bool) {
 // cheapest returns the first day of those with the least sum, and this; false, if no day has a sum.
 func (r rack) cheapest(days api.Span, lines []api.BookLine) (day, sum int, ok bool) {
 	quotes := r.quotes(days, lines)
-	for i := range days.High - days.Low + 1 {
+	for i := range spans.Count(days) {
 		n, has := sumOn(quotes, days.Low+i)
 		if has && (!ok || n < sum) {
 			day, sum, ok = days.Low+i, n, true
 		}
 	}
 	return day, sum, ok
-}
-
-func least[T cmp.Ordered](first T, others ...T) T {
-	for _, n := range others {
-		if n < first {
-			first = n
-		}
-	}
-	return first
 }

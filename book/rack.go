@@ -5,6 +5,7 @@ import (
 	"slices"
 
 	"wishbook/api"
+	"wishbook/spans"
 )
 
 // rack is a rack in the calculation.
@@ -26,9 +27,9 @@ func tellings() [2]func(catalogue, api.Span) bool {
 	return [...]func(catalogue, api.Span) bool{inUse: catalogue.isInUse, holding: catalogue.holdsPrices}
 }
 
-func (c catalogue) isInUse(days api.Span) bool { return meet(c.Days, days) }
+func (c catalogue) isInUse(days api.Span) bool { return spans.Meet(c.Days, days) }
 
-func (c catalogue) holdsPrices(days api.Span) bool { return meet(c.held(), days) }
+func (c catalogue) holdsPrices(days api.Span) bool { return spans.Meet(c.held(), days) }
 
 // held is on which days the prices of a book are held: not always as long as it is in use, or longer.
 func (c catalogue) held() api.Span { return api.Span{Low: c.Days.Low, High: c.Held} }
@@ -111,7 +112,7 @@ func (r rack) twins(day int) []int {
 
 func (r rack) placesInUse(day int) iter.Seq[place] {
 	return func(yield func(place) bool) {
-		for i, c := range r.books(inUse, oneDay(day)) {
+		for i, c := range r.books(inUse, spans.One(day)) {
 			for _, e := range c.Entries {
 				if !yield(place{i, e.Number}) {
 					return
@@ -119,16 +120,4 @@ func (r rack) placesInUse(day int) iter.Seq[place] {
 			}
 		}
 	}
-}
-
-func oneDay(day int) api.Span { return api.Span{Low: day, High: day} }
-
-// meet reports whether two spans have a number in common.
-func meet(one, other api.Span) bool {
-	return one.Low <= other.High && other.Low <= one.High
-}
-
-// covers reports whether all numbers of part are in whole.
-func covers(whole, part api.Span) bool {
-	return whole.Low <= part.Low && part.High <= whole.High
 }

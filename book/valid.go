@@ -1,6 +1,9 @@
 package book
 
-import "wishbook/api"
+import (
+	"wishbook/api"
+	"wishbook/spans"
+)
 
 // The rows of limits.
 const (
@@ -34,16 +37,8 @@ var limits = [...]api.Span{
 	ofPieces:  {Low: 1, High: api.BookMany},
 }
 
-func within(limit, n int) bool {
-	return limits[limit].Low <= n && n <= limits[limit].High
-}
-
-func spanWithin(limit int, s api.Span) bool {
-	return s.Low <= s.High && within(limit, s.Low) && within(limit, s.High)
-}
-
 func (r rack) isValid() bool {
-	if !within(ofGoods, r.Goods) || !within(ofIssues, len(r.Issues)) {
+	if !spans.Has(limits[ofGoods], r.Goods) || !spans.Has(limits[ofIssues], len(r.Issues)) {
 		return false
 	}
 	for _, b := range r.Issues {
@@ -56,7 +51,7 @@ func (r rack) isValid() bool {
 
 func (r rack) isCatalogue(c catalogue) bool {
 	// The span of held prices begins with the first day, so that it is one just if Held is not before it.
-	if !spanWithin(ofDays, c.Days) || !spanWithin(ofDays, c.held()) || !within(ofEntries, len(c.Entries)) {
+	if !spans.IsWithin(limits[ofDays], c.Days) || !spans.IsWithin(limits[ofDays], c.held()) || !spans.Has(limits[ofEntries], len(c.Entries)) {
 		return false
 	}
 	for i, e := range c.Entries {
@@ -77,7 +72,7 @@ func isRepeated(before []api.BookEntry, e api.BookEntry) bool {
 }
 
 func (r rack) isEntry(e api.BookEntry) bool {
-	return within(ofNumbers, e.Number) && r.isGood(e.Good) && isColourSet(e.Colours) && areFits(e.Sizes)
+	return spans.Has(limits[ofNumbers], e.Number) && r.isGood(e.Good) && isColourSet(e.Colours) && areFits(e.Sizes)
 }
 
 func (r rack) isGood(good int) bool {
@@ -98,11 +93,11 @@ func coloursOf(set int) [api.BookColours]bool {
 }
 
 func areFits(list []api.BookFit) bool {
-	if !within(ofFits, len(list)) {
+	if !spans.Has(limits[ofFits], len(list)) {
 		return false
 	}
 	for i, f := range list {
-		if !within(ofSizes, f.Size) || !spanWithin(ofFeet, f.Foot) || !within(ofPrices, f.Price) {
+		if !spans.Has(limits[ofSizes], f.Size) || !spans.IsWithin(limits[ofFeet], f.Foot) || !spans.Has(limits[ofPrices], f.Price) {
 			return false
 		}
 		if i > 0 && f.Size <= list[i-1].Size {
@@ -113,7 +108,7 @@ func areFits(list []api.BookFit) bool {
 }
 
 func (r rack) isItem(item api.BookItem) bool {
-	return r.isGood(item.Good) && within(ofSizes, item.Size) && within(ofColours, item.Colour)
+	return r.isGood(item.Good) && spans.Has(limits[ofSizes], item.Size) && spans.Has(limits[ofColours], item.Colour)
 }
 
 func (r rack) hasIssue(issue int) bool {
@@ -121,11 +116,11 @@ func (r rack) hasIssue(issue int) bool {
 }
 
 func areLines(lines []api.BookLine, isItem func(api.BookItem) bool) bool {
-	if !within(ofLines, len(lines)) {
+	if !spans.Has(limits[ofLines], len(lines)) {
 		return false
 	}
 	for _, l := range lines {
-		if !isItem(l.Item) || !within(ofPieces, l.Many) {
+		if !isItem(l.Item) || !spans.Has(limits[ofPieces], l.Many) {
 			return false
 		}
 	}

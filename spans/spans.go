@@ -1,0 +1,45 @@
+// Package spans calculates with spans of whole numbers (api.Span), for all layers.
+package spans
+
+import (
+	"cmp"
+
+	"wishbook/api"
+)
+
+// One is the span of a single number.
+func One(n int) api.Span { return api.Span{Low: n, High: n} }
+
+// Has reports whether a number lies in a span.
+func Has(s api.Span, n int) bool { return s.Low <= n && n <= s.High }
+
+// IsWithin reports whether s is a span, and lies wholly in another one.
+func IsWithin(limit, s api.Span) bool {
+	return s.Low <= s.High && Has(limit, s.Low) && Has(limit, s.High)
+}
+
+// Meet reports whether two spans have a number in common.
+func Meet(one, other api.Span) bool {
+	return one.Low <= other.High && other.Low <= one.High
+}
+
+// Covers reports whether all numbers of part are in whole.
+func Covers(whole, part api.Span) bool {
+	return whole.Low <= part.Low && part.High <= whole.High
+}
+
+// Join is the span from the least number to the greatest one of two spans.
+func Join(one, other api.Span) api.Span {
+	return api.Span{Low: Least(one.Low, other.Low), High: max(one.High, other.High)}
+}
+
+// Count is how many numbers there are in a span that is valid.
+func Count(s api.Span) int { return s.High - s.Low + 1 }
+
+// Least is the least of several values.
+func Least[T cmp.Ordered](first T, others ...T) T {
+	for _, n := range others {
+		first = min(first, n)
+	}
+	return first
+}

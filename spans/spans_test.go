@@ -1,0 +1,110 @@
+package spans_test
+
+import (
+	"testing"
+
+	"wishbook/api"
+	"wishbook/spans"
+)
+
+// small is all pairs of small numbers, also those that are no spans.
+func small() []api.Span {
+	var list []api.Span
+	for low := -1; low <= 4; low++ {
+		for high := -1; high <= 4; high++ {
+			list = append(list, api.Span{Low: low, High: high})
+		}
+	}
+	return list
+}
+
+// members is which of the numbers from -1 to 4 lie in a span.
+func members(s api.Span) (in [6]bool, count int) {
+	for i := range in {
+		if n := i - 1; s.Low <= n && n <= s.High {
+			in[i] = true
+			count++
+		}
+	}
+	return in, count
+}
+
+func TestHasAndCount(t *testing.T) {
+	for _, s := range small() {
+		in, count := members(s)
+		for i, want := range in {
+			if got := spans.Has(s, i-1); got != want {
+				t.Errorf("Has %v %d: %v", s, i-1, got)
+			}
+		}
+		if got := spans.Count(s); count > 0 && got != count {
+			t.Errorf("Count %v: %d, not %d", s, got, count)
+		}
+	}
+	if one := spans.One(3); one != (api.Span{Low: 3, High: 3}) {
+		t.Errorf("One 3: %v", one)
+	}
+}
+
+func TestTwoSpans(t *testing.T) {
+	for _, one := range small() {
+		here, count := members(one)
+		for _, other := range small() {
+			there, many := members(other)
+			if got, want := spans.IsWithin(other, one), count > 0 && isPart(here, there); got != want {
+				t.Errorf("IsWithin %v %v: %v", other, one, got)
+			}
+			if count == 0 || many == 0 {
+				continue
+			}
+			if got, want := spans.Covers(other, one), isPart(here, there); got != want {
+				t.Errorf("Covers %v %v: %v", other, one, got)
+			}
+			if got, want := spans.Meet(one, other), meets(here, there); got != want {
+				t.Errorf("Meet %v %v: %v", one, other, got)
+			}
+			checkJoin(t, one, other)
+		}
+	}
+}
+
+func isPart(part, whole [6]bool) bool {
+	for i := range part {
+		if part[i] && !whole[i] {
+			return false
+		}
+	}
+	return true
+}
+
+func meets(one, other [6]bool) bool {
+	for i := range one {
+		if one[i] && other[i] {
+			return true
+		}
+	}
+	return false
+}
+
+// checkJoin checks that a joined span has both, and nothing before or behind them.
+func checkJoin(t *testing.T, one, other api.Span) {
+	t.Helper()
+	got := spans.Join(one, other)
+	if !spans.Covers(got, one) || !spans.Covers(got, other) {
+		t.Errorf("Join %v %v: %v", one, other, got)
+	}
+	if got.Low != one.Low && got.Low != other.Low || got.High != one.High && got.High != other.High {
+		t.Errorf("Join %v %v: %v", one, other, got)
+	}
+}
+
+func TestLeast(t *testing.T) {
+	for _, x := range []struct{ got, want int }{
+		{spans.Least(3), 3}, {spans.Least(3, 1, 2), 1}, {spans.Least(1, 3, 2), 1}, {spans.Least(2, 3, 1), 1},
+		{spans.Least(-1, 0), -1}, {spans.Least(0, -1), -1},
+	} {
+		if x.got != x.want {
+			t.Errorf("Least: %d, not %d", x.got, x.want)
+		}
+	}
+}
