@@ -1,9 +1,8 @@
 package letter
 
 import (
-	"iter"
-
 	"wishbook/api"
+	"wishbook/choices"
 )
 
 // answers is what an order says to the pairs of a question, one after the other (nothing behind them).
@@ -13,7 +12,7 @@ type answers [api.LetterLines * len(values{})]int
 func shortest(orders []order, lines int) []api.LetterAsk {
 	pairs := pairsOf(lines)
 	for many := range pairs {
-		for question := range questions(pairs, many) {
+		for question := range choices.Of(pairs, many) {
 			if leavesOne(orders, question) {
 				return question
 			}
@@ -30,26 +29,6 @@ func pairsOf(lines int) []api.LetterAsk {
 		}
 	}
 	return list[:len(list):len(list)]
-}
-
-// questions produces all questions of so many pairs, in their order.
-func questions(pairs []api.LetterAsk, many int) iter.Seq[[]api.LetterAsk] {
-	return func(yield func([]api.LetterAsk) bool) {
-		var choose func(chosen, rest []api.LetterAsk) bool
-		choose = func(chosen, rest []api.LetterAsk) bool {
-			if len(chosen) == many {
-				return yield(chosen)
-			}
-			for i, pair := range rest {
-				// Without room behind it the list is copied, so that no other question has the same memory.
-				if !choose(append(chosen[:len(chosen):len(chosen)], pair), rest[i+1:]) {
-					return false
-				}
-			}
-			return true
-		}
-		choose(nil, pairs)
-	}
 }
 
 func leavesOne(orders []order, question []api.LetterAsk) bool {

@@ -1,4 +1,4 @@
-// Package sample has the rack of the document's examples, and others, for the tests of all layers that have books.
+// Package sample has the rack and the floor of the document's examples, and others, for the tests of all layers that have books or slips.
 package sample
 
 import (

@@ -10,6 +10,12 @@ import (
 // One is the span of a single number.
 func One(n int) api.Span { return api.Span{Low: n, High: n} }
 
+// Low is the low end of a span.
+func Low(s api.Span) int { return s.Low }
+
+// High is the high end of a span.
+func High(s api.Span) int { return s.High }
+
 // Has reports whether a number lies in a span.
 func Has(s api.Span, n int) bool { return s.Low <= n && n <= s.High }
 
@@ -30,7 +36,12 @@ func Covers(whole, part api.Span) bool {
 
 // Join is the span from the least number to the greatest one of two spans.
 func Join(one, other api.Span) api.Span {
-	return api.Span{Low: Least(one.Low, other.Low), High: max(one.High, other.High)}
+	return api.Span{Low: Least(one.Low, other.Low), High: Greatest(one.High, other.High)}
+}
+
+// Add is between what lies a number of one span and a number of another one together.
+func Add(one, other api.Span) api.Span {
+	return api.Span{Low: one.Low + other.Low, High: one.High + other.High}
 }
 
 // Count is how many numbers there are in a span that is valid.
@@ -40,6 +51,14 @@ func Count(s api.Span) int { return s.High - s.Low + 1 }
 func Least[T cmp.Ordered](first T, others ...T) T {
 	for _, n := range others {
 		first = min(first, n)
+	}
+	return first
+}
+
+// Greatest is the greatest of several values.
+func Greatest[T cmp.Ordered](first T, others ...T) T {
+	for _, n := range others {
+		first = max(first, n)
 	}
 	return first
 }

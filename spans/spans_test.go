@@ -64,6 +64,7 @@ func TestTwoSpans(t *testing.T) {
 				t.Errorf("Meet %v %v: %v", one, other, got)
 			}
 			checkJoin(t, one, other)
+			checkAdd(t, one, other)
 		}
 	}
 }
@@ -95,6 +96,39 @@ func checkJoin(t *testing.T, one, other api.Span) {
 	}
 	if got.Low != one.Low && got.Low != other.Low || got.High != one.High && got.High != other.High {
 		t.Errorf("Join %v %v: %v", one, other, got)
+	}
+}
+
+// checkAdd checks that two added spans have just the sums of their numbers.
+func checkAdd(t *testing.T, one, other api.Span) {
+	t.Helper()
+	sums := map[int]bool{}
+	for n := one.Low; n <= one.High; n++ {
+		for m := other.Low; m <= other.High; m++ {
+			sums[n+m] = true
+		}
+	}
+	got := spans.Add(one, other)
+	if !sums[got.Low] || !sums[got.High] || spans.Count(got) != len(sums) {
+		t.Errorf("Add %v %v: %v", one, other, got)
+	}
+}
+
+func TestEnds(t *testing.T) {
+	s := api.Span{Low: -2, High: 5}
+	if low, high := spans.Low(s), spans.High(s); low != -2 || high != 5 {
+		t.Errorf("the ends of %v: %d, %d", s, low, high)
+	}
+}
+
+func TestGreatest(t *testing.T) {
+	for _, x := range []struct{ got, want int }{
+		{spans.Greatest(3), 3}, {spans.Greatest(3, 1, 2), 3}, {spans.Greatest(1, 3, 2), 3}, {spans.Greatest(2, 1, 3), 3},
+		{spans.Greatest(-1, 0), 0}, {spans.Greatest(0, -1), 0},
+	} {
+		if x.got != x.want {
+			t.Errorf("Greatest: %d, not %d", x.got, x.want)
+		}
 	}
 }
 
