@@ -91,6 +91,9 @@ func eachLoad(f api.SlipFloor, left pieces, do func(load pieces)) {
 func areTours(f api.SlipFloor, s api.SlipSlip, list [][]api.SlipLine) bool {
 	var all []api.SlipLine
 	for _, t := range list {
+		if len(t) == 0 {
+			return false
+		}
 		together := 0
 		for i, l := range t {
 			if l.Shelf < 0 || l.Shelf >= len(f.Far) || l.Many < 1 || i > 0 && l.Shelf <= t[i-1].Shelf {

@@ -192,8 +192,12 @@ func TestP3_1IsTours(t *testing.T) {
 		{"a shelf that there never is", 2, tours(tour(0, 1, 12, 1)), false},
 		{"no tours", 2, nil, false},
 		{"an empty list of tours", 2, tours(), false},
-		{"an empty tour alone", 2, tours(nil), false},
-		{"an empty tour beside", 2, tours(nil, tour(0, 1), tour()), true},
+		{"a tour without lines alone", 2, tours(nil), false},
+		{"a tour without lines first", 0, tours(nil, tour(0, 1, 2, 3), tour(0, 1)), false},
+		{"a tour without lines between", 0, tours(tour(0, 1, 2, 3), nil, tour(0, 1)), false},
+		{"a tour without lines last", 0, tours(tour(0, 1, 2, 3), tour(0, 1), nil), false},
+		{"a tour with an empty list of lines", 0, tours(tour(0, 1, 2, 3), []api.SlipLine{}, tour(0, 1)), false},
+		{"tours without lines on both sides", 2, tours(nil, tour(0, 1), []api.SlipLine{}), false},
 	} {
 		if got, e := slip.IsTours(example(), x.slip, x.tours); got != x.want || e != api.OK {
 			t.Errorf("%s: %v, %d", x.name, got, e)

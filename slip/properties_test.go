@@ -185,6 +185,23 @@ func TestP3_8WhatAreTours(t *testing.T) {
 	}
 }
 
+// P3.1, P3.8: wherever among tours a list without lines stands, they are no tours of the slip.
+func TestP3_8NoTourWithoutLines(t *testing.T) {
+	eachFloor(t, 300, 4, func(rnd *rand.Rand, f api.SlipFloor) {
+		for s := range f.Slips {
+			list, _ := slip.Tours(f, s)
+			for at := range len(list) + 1 {
+				for _, none := range tours(nil, []api.SlipLine{}) {
+					more := slices.Insert(slices.Clone(list), at, none)
+					if got, e := slip.IsTours(f, s, more); got || e != api.OK {
+						t.Fatalf("IsTours of %v, %d, %v: %v, %d", f, s, more, got, e)
+					}
+				}
+			}
+		}
+	})
+}
+
 // disturb moves a piece from some line to another one, of the same shelf or not, or changes one number.
 func disturb(rnd *rand.Rand, list [][]api.SlipLine) {
 	from, to := list[rnd.Intn(len(list))], list[rnd.Intn(len(list))]

@@ -41,7 +41,7 @@ func (f floor) isValid() bool {
 		return false
 	}
 	for _, s := range f.Slips {
-		if !spans.Has(limits[ofUntils], s.Until) || !spans.Has(limits[ofLines], len(s.Lines)) || !f.areLines(s.Lines) {
+		if !spans.Has(limits[ofUntils], s.Until) || !f.areLines(s.Lines) {
 			return false
 		}
 	}
@@ -63,8 +63,12 @@ func (f floor) areShelves() bool {
 	return true
 }
 
-// areLines reports whether lines have shelves of the floor, strictly increasing, and pieces of each.
+// areLines reports whether lines, of a slip or of a tour, have shelves of the floor, at least one, strictly increasing, and pieces of each.
+// A tour without a shelf would have no farthest one, which says how many steps it takes.
 func (f floor) areLines(lines []api.SlipLine) bool {
+	if !spans.Has(limits[ofLines], len(lines)) {
+		return false
+	}
 	next := 0
 	for _, l := range lines {
 		if l.Shelf < next || l.Shelf >= len(f.Far) || !spans.Has(limits[ofPieces], l.Many) {
