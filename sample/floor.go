@@ -48,11 +48,11 @@ func LargestFloor() api.SlipFloor {
 
 // CopyFloor copies a floor wholly, and leaves free room behind each list, with what no valid floor has.
 func CopyFloor(f api.SlipFloor) api.SlipFloor {
-	f.Far = roomy(f.Far, -1)
-	f.Pick = roomy(f.Pick, Span(-1, -2))
-	f.Slips = roomy(f.Slips, api.SlipSlip{Until: -1})
+	f.Far = Roomy(f.Far, -1)
+	f.Pick = Roomy(f.Pick, Span(-1, -2))
+	f.Slips = Roomy(f.Slips, api.SlipSlip{Until: -1})
 	for i := range f.Slips {
-		f.Slips[i].Lines = roomy(f.Slips[i].Lines, api.SlipLine{Shelf: -1})
+		f.Slips[i].Lines = Roomy(f.Slips[i].Lines, api.SlipLine{Shelf: -1})
 	}
 	return f
 }

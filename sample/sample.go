@@ -63,17 +63,18 @@ func Largest() api.BookRack {
 
 // Copy copies a rack wholly, and leaves free room behind each list, with what no valid rack has.
 func Copy(r api.BookRack) api.BookRack {
-	r.Issues = roomy(r.Issues, api.BookIssue{Held: -1})
+	r.Issues = Roomy(r.Issues, api.BookIssue{Held: -1})
 	for i := range r.Issues {
 		b := &r.Issues[i]
-		b.Entries = roomy(b.Entries, api.BookEntry{Number: -1})
+		b.Entries = Roomy(b.Entries, api.BookEntry{Number: -1})
 		for k := range b.Entries {
-			b.Entries[k].Sizes = roomy(b.Entries[k].Sizes, api.BookFit{Size: -1})
+			b.Entries[k].Sizes = Roomy(b.Entries[k].Sizes, api.BookFit{Size: -1})
 		}
 	}
 	return r
 }
 
-func roomy[T any](list []T, behind T) []T {
+// Roomy copies a list, and leaves free room behind it, with something there.
+func Roomy[T any](list []T, behind T) []T {
 	return append(slices.Clone(list), behind)[:len(list)]
 }
