@@ -72,6 +72,16 @@ func (d Dice) Floor(slips int) api.SlipFloor {
 	return f
 }
 
+// Roster gives so many slips to some pickers.
+func (d Dice) Roster(slips int) [][]int {
+	lists := make([][]int, 1+d(api.SlipPickers))
+	for _, s := range d.Order(slips) {
+		to := d(len(lists))
+		lists[to] = append(lists[to], s)
+	}
+	return lists
+}
+
 // slip returns some slip of at most 3 pieces of each shelf; pieces of one shelf at least. Mostly there is time to have it done.
 func (d Dice) slip(f api.SlipFloor) api.SlipSlip {
 	var s api.SlipSlip

@@ -56,7 +56,7 @@ type coming struct {
 	delivery int
 }
 
-func (c coming) isThere() bool { return spans.Has(below(len(c.Deliveries)), c.delivery) }
+func (c coming) isThere() bool { return spans.Has(spans.Below(len(c.Deliveries)), c.delivery) }
 
 // can reports whether it can have come on a day.
 func (c coming) can(day int) bool {
@@ -71,7 +71,7 @@ type moving struct {
 	move int
 }
 
-func (m moving) isThere() bool { return spans.Has(below(len(m.Moves)), m.move) }
+func (m moving) isThere() bool { return spans.Has(spans.Below(len(m.Moves)), m.move) }
 
 // can reports whether it can have been so many pieces.
 func (m moving) can(pieces int) bool {

@@ -1,9 +1,8 @@
 package shelf
 
 import (
-	"slices"
-
 	"wishbook/api"
+	"wishbook/lists"
 	"wishbook/spans"
 )
 
@@ -33,15 +32,10 @@ var limits = [...]api.Span{
 
 func (b book) isValid() bool {
 	return spans.Has(limits[ofDays], b.Days) &&
-		are(limits[ofShelves], b.Shelves, isShelf) &&
-		are(limits[ofMoves], b.Moves, b.isMove) &&
-		are(limits[ofDeliveries], b.Deliveries, b.isDelivery) &&
-		are(limits[ofCounts], b.Counts, b.isCount)
-}
-
-// are reports whether there are as many things as there can be, and each one is what it must be.
-func are[T any](many api.Span, list []T, is func(T) bool) bool {
-	return spans.Has(many, len(list)) && !slices.ContainsFunc(list, func(thing T) bool { return !is(thing) })
+		lists.Are(limits[ofShelves], b.Shelves, isShelf) &&
+		lists.Are(limits[ofMoves], b.Moves, b.isMove) &&
+		lists.Are(limits[ofDeliveries], b.Deliveries, b.isDelivery) &&
+		lists.Are(limits[ofCounts], b.Counts, b.isCount)
 }
 
 func isShelf(s api.ShelfShelf) bool {
@@ -53,19 +47,16 @@ func (b book) isMove(m api.ShelfMove) bool {
 }
 
 func (b book) isDelivery(d api.ShelfDelivery) bool {
-	return b.hasShelf(d.Shelf) && spans.IsWithin(below(b.Days), d.Days) && spans.IsWithin(limits[ofPieces], d.By)
+	return b.hasShelf(d.Shelf) && spans.IsWithin(spans.Below(b.Days), d.Days) && spans.IsWithin(limits[ofPieces], d.By)
 }
 
 func (b book) isCount(c api.ShelfCount) bool {
 	return b.hasDay(c.Day) && b.hasShelf(c.Shelf) && spans.Has(limits[ofPieces], c.Read) && spans.Has(limits[ofErrs], c.Err)
 }
 
-func (b book) hasDay(day int) bool { return spans.Has(below(b.Days), day) }
+func (b book) hasDay(day int) bool { return spans.Has(spans.Below(b.Days), day) }
 
-func (b book) hasShelf(shelf int) bool { return spans.Has(below(len(b.Shelves)), shelf) }
-
-// below is all numbers from 0 on that are less than n: those of n things.
-func below(n int) api.Span { return api.Span{Low: 0, High: n - 1} }
+func (b book) hasShelf(shelf int) bool { return spans.Has(spans.Below(len(b.Shelves)), shelf) }
 
 // roomOf is all numbers of pieces that have room on a shelf.
 func roomOf(s api.ShelfShelf) api.Span { return api.Span{Low: 0, High: s.Room} }

@@ -315,20 +315,10 @@ func truly(f api.SlipFloor, roster [][]int, draw func(s api.Span) int) []int {
 	return done
 }
 
-// someRoster gives the slips to some pickers.
-func someRoster(rnd *rand.Rand, f api.SlipFloor) [][]int {
-	lists := make([][]int, 1+rnd.Intn(api.SlipPickers))
-	for _, s := range sample.Dice(rnd.Intn).Order(len(f.Slips)) {
-		to := rnd.Intn(len(lists))
-		lists[to] = append(lists[to], s)
-	}
-	return lists
-}
-
 // P3.10: whatever truly happens lies between what is told, and both ends can happen.
 func TestP3_10WhateverHappens(t *testing.T) {
 	eachFloor(t, 400, api.SlipSlips, func(rnd *rand.Rand, f api.SlipFloor) {
-		lists := someRoster(rnd, f)
+		lists := sample.Dice(rnd.Intn).Roster(len(f.Slips))
 		told, e := slip.Done(f, lists)
 		if e != api.OK || len(told) != len(f.Slips) {
 			t.Fatalf("Done of %v, %v: %v, %d", f, lists, told, e)
@@ -482,7 +472,7 @@ func checkZero(t *testing.T, a answers) {
 func TestP2_SameArgumentsSameResult(t *testing.T) {
 	want := askAll(example(), usual())
 	eachFloor(t, 200, api.SlipSlips, func(rnd *rand.Rand, f api.SlipFloor) {
-		q := question{rnd.Intn(api.SlipSlips), 1 + rnd.Intn(5), tours(tour(0, 1)), someRoster(rnd, f)}
+		q := question{rnd.Intn(api.SlipSlips), 1 + rnd.Intn(5), tours(tour(0, 1)), sample.Dice(rnd.Intn).Roster(len(f.Slips))}
 		one, other := askAll(f, q), askAll(clone(f), q)
 		checkZero(t, one)
 		if !reflect.DeepEqual(one, other) {

@@ -10,6 +10,9 @@ import (
 // One is the span of a single number.
 func One(n int) api.Span { return api.Span{Low: n, High: n} }
 
+// Below is all numbers from 0 on that are less than n: those of n things.
+func Below(n int) api.Span { return api.Span{Low: 0, High: n - 1} }
+
 // Low is the low end of a span.
 func Low(s api.Span) int { return s.Low }
 

@@ -46,6 +46,14 @@ func TestHasAndCount(t *testing.T) {
 	}
 }
 
+func TestBelow(t *testing.T) {
+	for n, want := range []api.Span{{Low: 0, High: -1}, {Low: 0, High: 0}, {Low: 0, High: 1}, {Low: 0, High: 2}} {
+		if got := spans.Below(n); got != want {
+			t.Errorf("Below %d: %v, not %v", n, got, want)
+		}
+	}
+}
+
 func TestTwoSpans(t *testing.T) {
 	for _, one := range small() {
 		here, count := members(one)

@@ -1,0 +1,39 @@
+package lists_test
+
+import (
+	"testing"
+
+	"wishbook/api"
+	"wishbook/lists"
+)
+
+func TestAre(t *testing.T) {
+	isSmall := func(n int) bool { return n < 3 }
+	for _, x := range []struct {
+		many api.Span
+		list []int
+		want bool
+	}{
+		{api.Span{Low: 0, High: 2}, nil, true},
+		{api.Span{Low: 0, High: 2}, []int{}, true},
+		{api.Span{Low: 0, High: 2}, []int{1, 2}, true},
+		{api.Span{Low: 0, High: 2}, []int{1, 2, 0}, false},
+		{api.Span{Low: 0, High: 2}, []int{3, 2}, false},
+		{api.Span{Low: 0, High: 2}, []int{2, 3}, false},
+		{api.Span{Low: 0, High: 3}, []int{2, 3, 2}, false},
+		{api.Span{Low: 1, High: 2}, nil, false},
+		{api.Span{Low: 1, High: 2}, []int{2}, true},
+		{api.Span{Low: 2, High: 2}, []int{2}, false},
+	} {
+		if got := lists.Are(x.many, x.list, isSmall); got != x.want {
+			t.Errorf("Are %v %v: %v", x.many, x.list, got)
+		}
+	}
+}
+
+func TestAreAsksNothingOfTooMany(t *testing.T) {
+	lists.Are(api.Span{Low: 0, High: 1}, []int{1, 2}, func(int) bool {
+		t.Error("a thing of too many was asked about")
+		return true
+	})
+}
