@@ -1,4 +1,4 @@
-// Package lists asks about lists of things, for all layers.
+// Package lists asks about lists of things, and adds up what they are, for all layers.
 package lists
 
 import (
@@ -11,4 +11,13 @@ import (
 // Are reports whether there are as many things as there can be, and each one is what it must be.
 func Are[T any](many api.Span, list []T, is func(T) bool) bool {
 	return spans.Has(many, len(list)) && !slices.ContainsFunc(list, func(thing T) bool { return !is(thing) })
+}
+
+// Sum is what all things are together, if it is told what each one is.
+func Sum[T any](each func(T) int, things ...T) int {
+	sum := 0
+	for _, thing := range things {
+		sum += each(thing)
+	}
+	return sum
 }

@@ -37,3 +37,17 @@ func TestAreAsksNothingOfTooMany(t *testing.T) {
 		return true
 	})
 }
+
+func TestSum(t *testing.T) {
+	length := func(text string) int { return len(text) }
+	for _, x := range []struct {
+		list []string
+		want int
+	}{
+		{nil, 0}, {[]string{"abc"}, 3}, {[]string{"", "ab", "abc", "ab"}, 7},
+	} {
+		if got := lists.Sum(length, x.list...); got != x.want {
+			t.Errorf("Sum of %q: %d, not %d", x.list, got, x.want)
+		}
+	}
+}

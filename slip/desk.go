@@ -4,24 +4,26 @@ import (
 	"cmp"
 	"iter"
 	"slices"
+
+	"wishbook/sets"
 )
 
 // desk is a floor whose slips are given to pickers.
 type desk struct {
 	floor
-	order   []int        // all slips, those that must be done sooner first
-	seconds []int        // how long each slip takes at most
-	shares  map[crew]set // what one picker of a crew is given so that all is surely in time: nothing, if it cannot be
+	order   []int             // all slips, those that must be done sooner first
+	seconds []int             // how long each slip takes at most
+	shares  map[crew]sets.Set // what one picker of a crew is given so that all is surely in time: nothing, if it cannot be
 }
 
 // crew is which slips are given, and to how many pickers.
 type crew struct {
-	slips   set
+	slips   sets.Set
 	pickers int
 }
 
 func (f floor) desk() desk {
-	d := desk{floor: f, order: f.all().members(), shares: map[crew]set{}}
+	d := desk{floor: f, order: f.all().Members(), shares: map[crew]sets.Set{}}
 	for slip := range f.Slips {
 		d.seconds = append(d.seconds, f.takes(slip).High)
 	}
@@ -33,17 +35,17 @@ func (f floor) desk() desk {
 
 // given produces all sets of these slips that one picker surely has in time.
 // It is enough to try them in the order of the desk: of slips that are in time in any order, one that must be done sooner can change places with the one before it.
-func (d desk) given(slips set, isInTime func(slip, second int) bool) iter.Seq[set] {
-	return func(yield func(set) bool) {
-		var give func(to set, second int, rest []int) bool
-		give = func(to set, second int, rest []int) bool {
+func (d desk) given(slips sets.Set, isInTime func(slip, second int) bool) iter.Seq[sets.Set] {
+	return func(yield func(sets.Set) bool) {
+		var give func(to sets.Set, second int, rest []int) bool
+		give = func(to sets.Set, second int, rest []int) bool {
 		slips:
 			for i, slip := range rest {
 				done := second + d.seconds[slip]
-				if !slips.has(slip) || !isInTime(slip, done) {
+				if !slips.Has(slip) || !isInTime(slip, done) {
 					continue slips
 				}
-				if !give(to.with(slip), done, rest[i+1:]) {
+				if !give(to.With(slip), done, rest[i+1:]) {
 					return false
 				}
 			}
@@ -63,7 +65,7 @@ func (d desk) can(c crew) bool {
 	}
 	d.shares[c] = 0
 	for share := range d.given(c.slips, d.isInTime) {
-		if d.can(crew{c.slips &^ share, c.pickers - 1}) {
+		if d.can(crew{c.slips.Without(share), c.pickers - 1}) {
 			d.shares[c] = share
 			return true
 		}
@@ -87,16 +89,16 @@ func (d desk) roster(c crew) [][]int {
 	for c != (crew{}) {
 		share := d.shares[c] // nothing, where no slips are left
 		list = append(list, d.sorted(share))
-		c = crew{c.slips &^ share, c.pickers - 1}
+		c = crew{c.slips.Without(share), c.pickers - 1}
 	}
 	return list[:len(list):len(list)]
 }
 
 // sorted returns slips in the order of the desk.
-func (d desk) sorted(slips set) []int {
+func (d desk) sorted(slips sets.Set) []int {
 	var list []int
 	for _, slip := range d.order {
-		if slips.has(slip) {
+		if slips.Has(slip) {
 			list = append(list, slip)
 		}
 	}

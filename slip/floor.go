@@ -4,6 +4,7 @@ import (
 	"slices"
 
 	"wishbook/api"
+	"wishbook/sets"
 	"wishbook/spans"
 )
 
@@ -71,6 +72,6 @@ func (f floor) with(slip, until int) floor {
 }
 
 // all returns all slips.
-func (f floor) all() set {
-	return 1<<len(f.Slips) - 1
+func (f floor) all() sets.Set {
+	return sets.Below(len(f.Slips))
 }

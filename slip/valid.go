@@ -2,6 +2,7 @@ package slip
 
 import (
 	"wishbook/api"
+	"wishbook/sets"
 	"wishbook/spans"
 )
 
@@ -87,13 +88,13 @@ func (f floor) isRoster(roster [][]int) bool {
 	if !spans.Has(limits[ofPickers], len(roster)) {
 		return false
 	}
-	var given set
+	var given sets.Set
 	for _, list := range roster {
 		for _, slip := range list {
-			if !f.hasSlip(slip) || given.has(slip) {
+			if !f.hasSlip(slip) || given.Has(slip) {
 				return false
 			}
-			given = given.with(slip)
+			given = given.With(slip)
 		}
 	}
 	return given == f.all()
