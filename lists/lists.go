@@ -21,3 +21,13 @@ func Sum[T any](each func(T) int, things ...T) int {
 	}
 	return sum
 }
+
+// AreIncreasing reports whether each number is greater than the one before it.
+func AreIncreasing(numbers []int) bool {
+	for i, n := range numbers {
+		if i > 0 && n <= numbers[i-1] {
+			return false
+		}
+	}
+	return true
+}

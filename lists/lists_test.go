@@ -51,3 +51,17 @@ func TestSum(t *testing.T) {
 		}
 	}
 }
+
+func TestAreIncreasing(t *testing.T) {
+	for _, x := range []struct {
+		numbers []int
+		want    bool
+	}{
+		{nil, true}, {[]int{}, true}, {[]int{7}, true}, {[]int{-3, 0, 1, 9}, true},
+		{[]int{1, 1}, false}, {[]int{2, 1}, false}, {[]int{1, 2, 2}, false}, {[]int{1, 1, 2}, false}, {[]int{1, 3, 2}, false}, {[]int{1, 2, 0, 9}, false},
+	} {
+		if got := lists.AreIncreasing(x.numbers); got != x.want {
+			t.Errorf("AreIncreasing %v: %v", x.numbers, got)
+		}
+	}
+}

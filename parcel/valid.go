@@ -44,7 +44,7 @@ func (b book) isValid() bool {
 		spans.Has(limits[ofUnits], b.Unit) &&
 		spans.Has(limits[ofSteps], b.Fee) &&
 		lists.Are(limits[ofStamps], b.Stamps, isPrice) &&
-		areIncreasing(b.Stamps)
+		lists.AreIncreasing(b.Stamps)
 }
 
 func isPiece(p api.ParcelPiece) bool {
@@ -59,15 +59,6 @@ func isKind(k api.ParcelKind) bool {
 }
 
 func isPrice(cents int) bool { return spans.Has(limits[ofPrices], cents) }
-
-func areIncreasing(numbers []int) bool {
-	for i, n := range numbers {
-		if i > 0 && n <= numbers[i-1] {
-			return false
-		}
-	}
-	return true
-}
 
 // zoned is the number of a zone that is asked about.
 type zoned int
