@@ -31,3 +31,14 @@ func AreIncreasing(numbers []int) bool {
 	}
 	return true
 }
+
+// Where returns the numbers of all things that are so, increasing.
+func Where(are []bool) []int {
+	var numbers []int
+	for n, is := range are {
+		if is {
+			numbers = append(numbers, n)
+		}
+	}
+	return numbers[:len(numbers):len(numbers)]
+}

@@ -1,6 +1,7 @@
 package lists_test
 
 import (
+	"slices"
 	"testing"
 
 	"wishbook/api"
@@ -62,6 +63,19 @@ func TestAreIncreasing(t *testing.T) {
 	} {
 		if got := lists.AreIncreasing(x.numbers); got != x.want {
 			t.Errorf("AreIncreasing %v: %v", x.numbers, got)
+		}
+	}
+}
+
+func TestWhere(t *testing.T) {
+	for _, x := range []struct {
+		are  []bool
+		want []int
+	}{
+		{nil, nil}, {[]bool{false}, nil}, {[]bool{true}, []int{0}}, {[]bool{false, true, true, false, true}, []int{1, 2, 4}},
+	} {
+		if got := lists.Where(x.are); !slices.Equal(got, x.want) {
+			t.Errorf("Where %v: %v, not %v", x.are, got, x.want)
 		}
 	}
 }

@@ -2,6 +2,7 @@ package namesake
 
 import (
 	"wishbook/api"
+	"wishbook/lists"
 	"wishbook/spans"
 )
 
@@ -9,15 +10,7 @@ import (
 type letters [api.NamesakeLetters]bool
 
 // numbers returns the letters, increasing.
-func (l letters) numbers() []int {
-	var list []int
-	for letter, is := range l {
-		if is {
-			list = append(list, letter)
-		}
-	}
-	return list[:len(list):len(list)]
-}
+func (l letters) numbers() []int { return lists.Where(l[:]) }
 
 // telling is who wrote the first letters of a book.
 type telling struct {

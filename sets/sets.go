@@ -1,7 +1,10 @@
 // Package sets calculates with sets of small numbers, for all layers.
 package sets
 
-import "iter"
+import (
+	"iter"
+	"math/bits"
+)
 
 // Set is some numbers from 0 on: it has the number k just if its bit k is 1.
 type Set int
@@ -26,6 +29,9 @@ func (s Set) With(n int) Set { return s | 1<<n }
 
 // Without returns the set without the numbers of another one.
 func (s Set) Without(other Set) Set { return s &^ other }
+
+// Count returns how many numbers the set has.
+func (s Set) Count() int { return bits.OnesCount(uint(s)) }
 
 // Members returns the numbers of the set, increasing.
 func (s Set) Members() []int {

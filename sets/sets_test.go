@@ -17,6 +17,9 @@ func TestNumbers(t *testing.T) {
 		if got := x.set.Members(); !slices.Equal(got, x.members) {
 			t.Errorf("Members of %d: %v, not %v", x.set, got, x.members)
 		}
+		if got := x.set.Count(); got != len(x.members) {
+			t.Errorf("Count of %d: %d, not %d", x.set, got, len(x.members))
+		}
 		if got := sets.Of(x.members...); got != x.set {
 			t.Errorf("Of %v: %d, not %d", x.members, got, x.set)
 		}
